@@ -2,6 +2,7 @@ package parts_test
 
 import (
 	"fmt"
+	"maps"
 	"math"
 	"math/rand"
 	"reflect"
@@ -188,12 +189,12 @@ func (x *world) some() int {
 		return x.tried
 	}
 	var l []int
-	for n, u := range x.uploads {
+	for _, n := range slices.Sorted(maps.Keys(x.uploads)) { // in one order, so that every run of the test is the same one
+		u := x.uploads[n]
 		if u.open || !u.ended && x.r.Intn(2) == 0 || x.r.Intn(9) == 0 {
 			l = append(l, n)
 		}
 	}
-	slices.Sort(l)
 	if len(l) == 0 {
 		return -1
 	}
